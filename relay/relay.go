@@ -1,0 +1,49 @@
+// Package relay: blocks sent shortly, and put together again: see DOC.md.
+package relay
+
+import (
+	"compact/api"
+	"compact/hashes"
+)
+
+// Sum: SHA-256 (P2).
+func Sum(s string) string {
+	d := hashes.Sum(s)
+	return string(d[:])
+}
+
+// Sip: SipHash-2-4 (P2).
+func Sip(k0 uint64, k1 uint64, s string) uint64 { return hashes.Sip(k0, k1, s) }
+
+// Txid: the digest of a transaction (P3).
+func Txid(tx string) (string, api.Errno) { return "", api.OK }
+
+// Root: the Merkle root of digests (P3).
+func Root(ids []string) (string, bool, api.Errno) { return "", false, api.OK }
+
+// Encode: a block told shortly (P4).
+func Encode(block string, nonce uint64, along []int) (string, api.Errno) { return "", api.OK }
+
+// Serve: what a request asks for (P5).
+func Serve(block string, request string) (string, api.Errno) { return "", api.OK }
+
+// Receiver: of blocks; it has a pool.
+type Receiver struct{}
+
+// NewReceiver: of an empty pool.
+func NewReceiver() *Receiver { return &Receiver{} }
+
+// Add: a transaction more (P6).
+func (r *Receiver) Add(tx string) api.Errno { return api.OK }
+
+// Drop: a transaction less (P6).
+func (r *Receiver) Drop(id string) bool { return false }
+
+// IDs: of the pool (P6).
+func (r *Receiver) IDs() []string { return nil }
+
+// Compact: a block that is told shortly has come (P7).
+func (r *Receiver) Compact(message string) (api.Answer, api.Errno) { return api.Answer{}, api.OK }
+
+// Reply: transactions that were asked for have come (P8).
+func (r *Receiver) Reply(message string) (api.Answer, api.Errno) { return api.Answer{}, api.OK }
