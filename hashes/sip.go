@@ -1,6 +1,10 @@
 package hashes
 
-import "math/bits"
+import (
+	"math/bits"
+
+	"compact/numbers"
+)
 
 // sipState is what SipHash works on between two words.
 type sipState [4]uint64
@@ -15,11 +19,11 @@ func Sip(k0 uint64, k1 uint64, s string) uint64 {
 	}
 	rest := s
 	for len(rest) >= 8 {
-		v = sipWord(v, lowestFirst(rest[:8]))
+		v = sipWord(v, numbers.LowestFirst(rest[:8]))
 		rest = rest[8:]
 	}
 	// Of the length only the lowest byte has room above the rest: the others fall out at the top.
-	v = sipWord(v, uint64(len(s))<<56|lowestFirst(rest))
+	v = sipWord(v, uint64(len(s))<<56|numbers.LowestFirst(rest))
 	v[2] ^= 0xff
 	v = sipRounds(v, 4)
 	return v[0] ^ v[1] ^ v[2] ^ v[3]
@@ -47,13 +51,4 @@ func sipRounds(v sipState, rounds int) sipState {
 		v[2] = bits.RotateLeft64(v[2], 32)
 	}
 	return v
-}
-
-// lowestFirst is the number that at most eight bytes tell, the lowest byte first.
-func lowestFirst(s string) uint64 {
-	var n uint64
-	for i := len(s) - 1; i >= 0; i-- {
-		n = n<<8 | uint64(s[i])
-	}
-	return n
 }

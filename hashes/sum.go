@@ -1,10 +1,7 @@
-// Package hashes: SHA-256 and SipHash-2-4.
+// Package hashes: SHA-256, SipHash-2-4, and the Merkle root.
 package hashes
 
 import "math/bits"
-
-// Digest is an array, so that two are compared by == and one can be a map's key.
-type Digest [32]byte
 
 // scrambled is what SHA-256 works on between two blocks.
 type scrambled [8]uint32

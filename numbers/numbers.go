@@ -1,0 +1,11 @@
+// Package numbers: numbers told in bytes.
+package numbers
+
+// LowestFirst is the number that at most eight bytes tell, the lowest byte first.
+func LowestFirst(s string) uint64 {
+	var n uint64
+	for i := len(s) - 1; i >= 0; i-- {
+		n = n<<8 | uint64(s[i])
+	}
+	return n
+}
