@@ -9,3 +9,13 @@ func LowestFirst(s string) uint64 {
 	}
 	return n
 }
+
+// InBytes is the number's lowest so many bytes, the lowest first.
+func InBytes(n uint64, count int) string {
+	bytes := make([]byte, count)
+	for i := range bytes {
+		bytes[i] = byte(n)
+		n >>= 8
+	}
+	return string(bytes)
+}

@@ -40,10 +40,33 @@ func Root(ids []string) (string, bool, api.Errno) {
 }
 
 // Encode: a block told shortly (P4).
-func Encode(block string, nonce uint64, along []int) (string, api.Errno) { return "", api.OK }
+func Encode(block string, nonce uint64, along []int) (string, api.Errno) {
+	whole, err := wire.Read(block, (*wire.Reader).Block)
+	if err != api.OK {
+		return "", err
+	}
+	if err := checkAlong(along, len(whole.Transactions)); err != api.OK {
+		return "", err
+	}
+	return shorten(whole, nonce, along).Text(), api.OK
+}
 
 // Serve: what a request asks for (P5).
-func Serve(block string, request string) (string, api.Errno) { return "", api.OK }
+func Serve(block string, request string) (string, api.Errno) {
+	whole, err := wire.Read(block, (*wire.Reader).Block)
+	if err != api.OK {
+		return "", err
+	}
+	asked, err := wire.Read(request, (*wire.Reader).Request)
+	if err != api.OK {
+		return "", err
+	}
+	reply, err := answer(whole, asked)
+	if err != api.OK {
+		return "", err
+	}
+	return reply.Text(), api.OK
+}
 
 // Receiver: of blocks; it has a pool.
 type Receiver struct{}

@@ -1,4 +1,4 @@
-// Package wire: what is told in bytes, read from left to right.
+// Package wire: what is told in bytes, read and written from left to right.
 package wire
 
 import (
