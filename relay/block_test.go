@@ -76,16 +76,7 @@ func wrongBlocks() []wrong {
 // wrongTransactions: blocks of which one transaction is wrong, the first, one within, or the last.
 func wrongTransactions() []wrong {
 	var all []wrong
-	for _, c := range []wrong{
-		{"no inputs", transaction(0, 0, 1, 0), api.ErrBound},
-		{"five inputs", transaction(5, 0, 1, 0), api.ErrBound},
-		{"no outputs", transaction(1, 0, 0, 0), api.ErrBound},
-		{"five outputs", transaction(1, 0, 5, 0), api.ErrBound},
-		{"41 bytes in an input", transaction(1, 41, 1, 0), api.ErrBound},
-		{"41 bytes in an output", transaction(1, 0, 1, 41), api.ErrBound},
-		{"a long size", counts{"\xfd\x01\x00", "\x00", "\x01", "\x00"}.written(1, 0, 1, 0), api.ErrSize},
-		{"a long size of a script", counts{"\x01", "\x00", "\x01", "\xfd\x01\x00"}.written(1, 0, 1, 1), api.ErrSize},
-	} {
+	for _, c := range boundTxs() {
 		for place := range 3 {
 			txs := several(3)
 			txs[place] = c.text

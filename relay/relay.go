@@ -67,24 +67,3 @@ func Serve(block string, request string) (string, api.Errno) {
 	}
 	return reply.Text(), api.OK
 }
-
-// Receiver: of blocks; it has a pool.
-type Receiver struct{}
-
-// NewReceiver: of an empty pool.
-func NewReceiver() *Receiver { return &Receiver{} }
-
-// Add: a transaction more (P6).
-func (r *Receiver) Add(tx string) api.Errno { return api.OK }
-
-// Drop: a transaction less (P6).
-func (r *Receiver) Drop(id string) bool { return false }
-
-// IDs: of the pool (P6).
-func (r *Receiver) IDs() []string { return nil }
-
-// Compact: a block that is told shortly has come (P7).
-func (r *Receiver) Compact(message string) (api.Answer, api.Errno) { return api.Answer{}, api.OK }
-
-// Reply: transactions that were asked for have come (P8).
-func (r *Receiver) Reply(message string) (api.Answer, api.Errno) { return api.Answer{}, api.OK }

@@ -12,6 +12,12 @@ type Header string
 // Name is the name of the block that has this header.
 func (h Header) Name() hashes.Digest { return hashes.Double(string(h)) }
 
+// Root is the Merkle root that the header speaks of.
+func (h Header) Root() hashes.Digest {
+	root, _ := hashes.DigestOf(string(h[36:68]))
+	return root
+}
+
 // Block is a block, with the bytes of its transactions.
 type Block struct {
 	Header       Header
@@ -48,9 +54,7 @@ type Reply struct {
 func (r *Reader) Block() Block {
 	var block Block
 	block.Header = r.header()
-	r.several(1, api.MaxTxs, func(r *Reader) {
-		block.Transactions = append(block.Transactions, r.Transaction())
-	})
+	block.Transactions = r.transactions()
 	return block
 }
 
@@ -87,6 +91,23 @@ func (r *Reader) Request() Request {
 		next = index + 1
 	})
 	return request
+}
+
+// Reply reads a reply.
+func (r *Reader) Reply() Reply {
+	var reply Reply
+	reply.Name = r.name()
+	reply.Transactions = r.transactions()
+	return reply
+}
+
+// transactions reads a size from 1 to MaxTxs, and so many transactions.
+func (r *Reader) transactions() []string {
+	var transactions []string
+	r.several(1, api.MaxTxs, func(r *Reader) {
+		transactions = append(transactions, r.Transaction())
+	})
+	return transactions
 }
 
 func (r *Reader) header() Header { return Header(r.take(80)) }

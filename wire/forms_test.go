@@ -153,3 +153,93 @@ func TestReplyIsWritten(t *testing.T) {
 		}
 	}
 }
+
+func TestBlockIsReadAndWritten(t *testing.T) {
+	header := strings.Repeat("h", 80)
+	for text, want := range map[string]Block{
+		header + "\x01" + least("a"):                        {Header(header), []string{least("a")}},
+		header + "\x02" + least("b") + least("a"):           {Header(header), []string{least("b"), least("a")}},
+		header + "\x10" + strings.Repeat(least("c"), 16):    {Header(header), strings.SplitAfter(strings.Repeat(least("c"), 16), "lock")[:16]},
+		strings.Repeat("\x00", 80) + "\x01" + least("\x00"): {Header(strings.Repeat("\x00", 80)), []string{least("\x00")}},
+	} {
+		got, err := Read(text, (*Reader).Block)
+		if err != api.OK || !reflect.DeepEqual(got, want) {
+			t.Errorf("the block %q = %v, %d, want %v", text, got, err, want)
+		}
+		if back := want.Text(); back != text {
+			t.Errorf("%v is told as %q, want %q", want, back, text)
+		}
+	}
+}
+
+// Example 8, and the ends of what may be asked for.
+func TestRequestIsReadAndWritten(t *testing.T) {
+	name := hashes.Sum("name")
+	var all []int
+	for i := range api.MaxTxs {
+		all = append(all, i)
+	}
+	for behind, indexes := range map[string][]int{
+		"\x03\x01\x00\x02":                  {1, 2, 5},
+		"\x01\x00":                          {0},
+		"\x01\x0f":                          {15},
+		"\x02\x00\x0e":                      {0, 15},
+		"\x02\x0e\x00":                      {14, 15},
+		"\x10" + strings.Repeat("\x00", 16): all,
+	} {
+		text, want := name.Text()+behind, Request{name, indexes}
+		got, err := Read(text, (*Reader).Request)
+		if err != api.OK || !reflect.DeepEqual(got, want) {
+			t.Errorf("the request %q = %v, %d, want %v", text, got, err, want)
+		}
+		if back := want.Text(); back != text {
+			t.Errorf("%v is told as %q, want %q", want, back, text)
+		}
+	}
+}
+
+func TestReplyIsRead(t *testing.T) {
+	name := hashes.Sum("name")
+	for _, transactions := range [][]string{
+		{least("a")}, {least("b"), least("a")}, {least("a"), least("a")},
+		strings.SplitAfter(strings.Repeat(least("c"), 16), "lock")[:16],
+	} {
+		want := Reply{name, transactions}
+		got, err := Read(want.Text(), (*Reader).Reply)
+		if err != api.OK || !reflect.DeepEqual(got, want) {
+			t.Errorf("the reply %v is read as %v, %d", want, got, err)
+		}
+	}
+}
+
+func TestReplyThatIsWrong(t *testing.T) {
+	name := hashes.Sum("name").Text()
+	right := name + "\x02" + least("a") + least("b")
+	texts := map[string]api.Errno{
+		right + "\x00": api.ErrRest,
+		name + "\x00":  api.ErrBound,
+		name + "\x11" + strings.Repeat(least("a"), 17):  api.ErrBound,
+		name + "\xfd\x01\x00" + least("a"):              api.ErrSize,
+		name + "\xff\xff\xff\xff\xff\xff\xff\xff\xff":   api.ErrBound,
+		name + "\x01vers\x00":                           api.ErrBound,
+		name + "\x02" + least("a") + "vers\xfd\x01\x00": api.ErrSize,
+		name + "\x01" + least("a") + least("b"):         api.ErrRest,
+	}
+	for end := range len(right) {
+		texts[right[:end]] = api.ErrEnd
+	}
+	for text, want := range texts {
+		got, err := Read(text, (*Reader).Reply)
+		if err != want || !reflect.DeepEqual(got, Reply{}) {
+			t.Errorf("the reply %q = %v, %d, want %d", text, got, err, want)
+		}
+	}
+}
+
+func TestHeaderTellsItsRoot(t *testing.T) {
+	root := hashes.Sum("root")
+	header := Header(strings.Repeat("\xff", 36) + root.Text() + strings.Repeat("\xff", 12))
+	if got := header.Root(); got != root {
+		t.Errorf("the root of %x = %x, want %x", header, got, root)
+	}
+}

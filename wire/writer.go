@@ -21,9 +21,28 @@ func (s ShortBlock) Text() string {
 	w.count(len(s.Along))
 	next := 0
 	for _, sent := range s.Along {
-		w.count(sent.Index - next)
+		next = w.index(next, sent.Index)
 		w.text(sent.Transaction)
-		next = sent.Index + 1
+	}
+	return string(w.told)
+}
+
+// Text is the block in bytes.
+func (b Block) Text() string {
+	var w writer
+	w.text(string(b.Header))
+	w.several(b.Transactions)
+	return string(w.told)
+}
+
+// Text is the request in bytes.
+func (q Request) Text() string {
+	var w writer
+	w.text(q.Name.Text())
+	w.count(len(q.Indexes))
+	next := 0
+	for _, index := range q.Indexes {
+		next = w.index(next, index)
 	}
 	return string(w.told)
 }
@@ -32,11 +51,22 @@ func (s ShortBlock) Text() string {
 func (p Reply) Text() string {
 	var w writer
 	w.text(p.Name.Text())
-	w.count(len(p.Transactions))
-	for _, tx := range p.Transactions {
+	w.several(p.Transactions)
+	return string(w.told)
+}
+
+// several tells how many transactions there are, and each of them.
+func (w *writer) several(transactions []string) {
+	w.count(len(transactions))
+	for _, tx := range transactions {
 		w.text(tx)
 	}
-	return string(w.told)
+}
+
+// index tells an index, where next is the least that it could be; the answer is the least that the one behind it could be.
+func (w *writer) index(next int, index int) int {
+	w.count(index - next)
+	return index + 1
 }
 
 func (w *writer) text(s string) { w.told = append(w.told, s...) }
